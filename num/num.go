@@ -5,6 +5,7 @@ import (
 	"slices"
 
 	"loggia/api"
+	"loggia/fault"
 )
 
 // widest: a uint64 has no more bytes than that.
@@ -44,7 +45,7 @@ func Of(b []byte) *In { return &In{rest: slices.Clone(b)} }
 func (i *In) Take(n int) uint64 {
 	var v uint64
 	i.guard(func() {
-		must(isWidth(n), api.ErrArg)
+		fault.Must(isWidth(n), api.ErrArg)
 		for k, c := range i.next(n) {
 			v |= uint64(c) << (8 * k)
 		}
@@ -56,7 +57,7 @@ func (i *In) Take(n int) uint64 {
 func (i *In) Raw(n int) []byte {
 	var b []byte
 	i.guard(func() {
-		must(n >= 0, api.ErrArg)
+		fault.Must(n >= 0, api.ErrArg)
 		b = slices.Clone(i.next(n))
 	})
 	return b
@@ -70,29 +71,20 @@ func (i *In) Err() api.Errno { return i.err }
 
 // guard does a take and catches the error that it panics with. The bytes go then, and nothing is done any more, so that all is zero from there on and the first error stays.
 func (i *In) guard(take func()) {
-	defer func() {
-		if e, ok := recover().(api.Errno); ok {
-			i.rest, i.err = nil, e
-		}
-	}()
-	if i.err == api.OK {
-		take()
+	if i.err != api.OK {
+		return
+	}
+	if e := fault.Caught(take); e != api.OK {
+		i.rest, i.err = nil, e
 	}
 }
 
 // next moves past the next n bytes (n not below 0). They are In's own: copy them ahead of handing them out.
 func (i *In) next(n int) []byte {
-	must(n <= len(i.rest), api.ErrShort)
+	fault.Must(n <= len(i.rest), api.ErrShort)
 	b := i.rest[:n]
 	i.rest = i.rest[n:]
 	return b
-}
-
-// must panics with e, for guard to catch, unless ok.
-func must(ok bool, e api.Errno) {
-	if !ok {
-		panic(e)
-	}
 }
 
 func isWidth(n int) bool { return n >= 1 && n <= widest }
